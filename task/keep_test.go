@@ -382,14 +382,16 @@ func TestBoundLongBuffers(t *testing.T) {
 	}
 }
 
+// held is how many bytes are in use.
+func held() uint64 {
+	var m runtime.MemStats
+	runtime.GC()
+	runtime.ReadMemStats(&m)
+	return m.HeapAlloc
+}
+
 // TestBoundTakenIsGone: what went out of a long buffer takes no memory any more.
 func TestBoundTakenIsGone(t *testing.T) {
-	held := func() uint64 {
-		var m runtime.MemStats
-		runtime.GC()
-		runtime.ReadMemStats(&m)
-		return m.HeapAlloc
-	}
 	before := held()
 	x := fill(t, 1<<18)
 	if got := held(); got < before+4<<20 {
@@ -411,6 +413,83 @@ func TestBoundTakenIsGone(t *testing.T) {
 	takes(1000)
 	if got, left := held(), len(x.Plain().Now.Buffers[0]); got > before+1<<19 || left != 0 {
 		t.Errorf("%d bytes more are held of %d records", got-before, left)
+	}
+	runtime.KeepAlive(x)
+}
+
+// handle feeds a record to a task with one input, and steps it.
+func handle(t *testing.T, x *task.Task, key int64) []api.Out {
+	t.Helper()
+	if x.Feed(0, rec(key, 1)) != api.OK {
+		t.Fatal("Feed", key)
+	}
+	out, done := x.Step(1)
+	if !done {
+		t.Fatal("Step", key)
+	}
+	return out
+}
+
+// TestBoundManyKeys: a record costs a few steps, however many keys are kept, whichever key it has.
+func TestBoundManyKeys(t *testing.T) {
+	const many = 300_000
+	begin := time.Now()
+	for _, o := range []api.Op{fold(api.FnSum), window(api.FnSum, 3)} {
+		x, e := task.New(o, 1)
+		if e != api.OK {
+			t.Fatal(e)
+		}
+		// Each key comes once, from all sides, and some of them twice.
+		for n := range int64(many) {
+			handle(t, x, n*7919%many)
+			if n%3 == 0 {
+				handle(t, x, n*7919%many)
+			}
+		}
+		keys := x.Plain().Now.State.Keys
+		if len(keys) != many {
+			t.Fatalf("%v: %d keys", o, len(keys))
+		}
+		for i, k := range keys {
+			if k.Key != int64(i) || k.Count != k.Acc || k.Count < 1 || k.Count > 2 {
+				t.Fatalf("%v: %v at %d", o, k, i)
+			}
+		}
+	}
+	// Copying all keys for each record would take many minutes.
+	if took := time.Since(begin); took > 20*time.Second {
+		t.Errorf("it took %v", took)
+	}
+}
+
+// TestBoundKeysGone: keys of which nothing is kept any more take no memory, and no time where the others are asked for.
+func TestBoundKeysGone(t *testing.T) {
+	const many = 200_000
+	before := held()
+	x, e := task.New(window(api.FnSum, 2), 1)
+	if e != api.OK {
+		t.Fatal(e)
+	}
+	for key := range int64(many) {
+		handle(t, x, key)
+	}
+	if got := held(); got < before+4<<20 {
+		t.Fatalf("%d bytes are held of many keys: too few to tell", got-before)
+	}
+	for key := range int64(many - 100) {
+		if out := handle(t, x, key); !slices.Equal(out, outs(0, rec(key, 2))) {
+			t.Fatalf("%v went out", out)
+		}
+	}
+	if got, left := held(), len(x.Plain().Now.State.Keys); got > before+1<<18 || left != 100 {
+		t.Errorf("%d bytes more are held of %d keys", got-before, left)
+	}
+	begin := time.Now()
+	for range 20_000 {
+		x.Plain()
+	}
+	if took := time.Since(begin); took > 20*time.Second {
+		t.Errorf("it took %v", took)
 	}
 	runtime.KeepAlive(x)
 }

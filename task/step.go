@@ -53,15 +53,15 @@ func (d deed) hasRoom(left []int) bool {
 
 // turn tells what an OpUnion does with the buffer whose turn it is.
 func (t *Task) turn() (deed, bool) {
-	turn := t.state.Turn
-	if turn >= len(t.buffers) || len(t.buffers[turn].rest()) == 0 {
+	whose := t.whose
+	if whose >= len(t.buffers) || len(t.buffers[whose].rest()) == 0 {
 		return deed{}, false
 	}
 	take := func() {
-		t.buffers[turn].drop()
-		t.state.Turn = (turn + 1) % len(t.buffers)
+		t.buffers[whose].drop()
+		t.whose = (whose + 1) % len(t.buffers)
 	}
-	return deed{take, recordOut(0, t.buffers[turn].rest()[0])}, true
+	return deed{take, recordOut(0, t.buffers[whose].rest()[0])}, true
 }
 
 // search goes through the inputs: a record that waits at one of them comes before a barrier that waits at all.
@@ -105,12 +105,13 @@ func (t *Task) record(input int) deed {
 	case api.OpSink:
 		return deed{func() { q.Take() }, recordOut(0, r)}
 	}
-	state, puts := oper.Step(t.op, t.state, r)
+	// What goes out, and what is kept of a key, hang on that key alone: the others are not handed over, as they would be copied.
+	state, puts := oper.Step(t.op, api.OpState{Keys: t.shelf.of(r.Key)}, r)
 	var out []api.Out
 	for _, p := range puts {
 		out = append(out, recordOut(p.Port, p.Record)...)
 	}
-	return deed{func() { q.Take(); t.state = state }, out}
+	return deed{func() { q.Take(); t.shelf.put(r.Key, state.Keys) }, out}
 }
 
 // barrier tells what is done with a barrier that waits first at all inputs.
